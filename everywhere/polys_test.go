@@ -5,6 +5,7 @@ import (
 	"testing"
 
 	"ashlar/api"
+	"ashlar/roots"
 	"ashlar/upoly"
 )
 
@@ -76,4 +77,35 @@ func terms(p api.Poly) ([]int, []api.Int) {
 		}
 	}
 	return powers, entries
+}
+
+// rooted are polynomials with integer roots, some of them many times, and others.
+func rooted() []api.Poly {
+	out := polys()
+	for i, p := range polys() {
+		xs := ints()[i:]
+		out = append(out, roots.With(p, xs[0], xs[0]), roots.With(p, xs[:min(4, len(xs))]...))
+	}
+	return out
+}
+
+// intLists are lists of numbers, some of them twice.
+func intLists() [][]api.Int {
+	n := ints()
+	return [][]api.Int{nil, {}, n[:1], n[3:4], n[4:5], {n[7], n[7]}, {n[8], n[5], n[8]}, n[2:11], n[10:]}
+}
+
+func TestRoots(t *testing.T) {
+	one := ones(rooted())
+	without := func(p api.Poly, xs []api.Int) (api.Poly, api.Errno) { return roots.Without(p, xs...) }
+	with := func(p api.Poly, xs []api.Int) api.Poly { return roots.With(p, xs...) }
+	for _, c := range []call{
+		{"roots.All", roots.All, one},
+		{"roots.Natural", roots.Natural, one},
+		{"roots.Times", roots.Times, pairs(rooted(), ints())},
+		{"roots.Without", without, pairs(rooted(), intLists())},
+		{"roots.With", with, pairs(rooted(), intLists())},
+	} {
+		hold(t, c)
+	}
 }
