@@ -71,15 +71,23 @@ func isRefused(out []any) bool {
 
 func isNothing(out []any) bool {
 	for _, v := range plain(out) {
-		zero := reflect.Zero(reflect.TypeOf(v)).Interface()
-		if _, ok := v.(api.Rat); ok {
-			zero = api.Rat{Den: api.Int{L: []uint32{1}}}
-		}
-		if !reflect.DeepEqual(v, zero) {
+		if !reflect.DeepEqual(v, zeroLike(v)) {
 			return false
 		}
 	}
 	return true
+}
+
+// zeroLike gives the zero value of v's type, as the document reads it.
+func zeroLike(v any) any {
+	one := api.Int{L: []uint32{1}}
+	switch v.(type) {
+	case api.Rat:
+		return api.Rat{Den: one}
+	case api.Fun:
+		return api.Fun{Den: api.Poly{one}}
+	}
+	return reflect.Zero(reflect.TypeOf(v)).Interface()
 }
 
 // plain gives the same values for comparing and telling.
