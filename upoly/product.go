@@ -6,6 +6,7 @@ import (
 
 	"ashlar/api"
 	"ashlar/limbs"
+	"ashlar/packed"
 )
 
 // Mul multiplies.
@@ -19,8 +20,7 @@ func product(p, q api.Poly) api.Poly {
 	if rowsCost(p, q) <= packedCost(len(p), len(q), width) {
 		return productByRows(p, q)
 	}
-	packed := limbs.Mul(pack(p, width), pack(q, width))
-	return unpack(packed, width, len(p)+len(q)-1)
+	return packedProduct(p, q, width)
 }
 
 // digitWidth tells in how many limbs each entry of the product of p and q has
@@ -69,6 +69,10 @@ func packedCost(m, n, width int) int {
 	return cost + 2*askingCost*(m+n)
 }
 
+func packedProduct(p, q api.Poly, width int) api.Poly {
+	return packed.Poly(limbs.Mul(packed.Of(p, width), packed.Of(q, width)), width)
+}
+
 func productByRows(p, q api.Poly) api.Poly {
 	out := make(api.Poly, len(p)+len(q)-1)
 	for i, a := range p {
@@ -78,45 +82,6 @@ func productByRows(p, q api.Poly) api.Poly {
 		for j, b := range q {
 			out[i+j] = limbs.Add(out[i+j], limbs.Mul(a, b))
 		}
-	}
-	return out
-}
-
-// pack gives p at 2^(32 width): a product of such numbers is the product of the
-// polynomials, packed (Kronecker's way), and limbs is quick at long numbers.
-func pack(p api.Poly, width int) api.Int {
-	above := make([]uint32, width*len(p))
-	below := make([]uint32, width*len(p))
-	for i, c := range p {
-		into := above
-		if c.Neg {
-			into = below
-		}
-		copy(into[i*width:], c.L)
-	}
-	return limbs.Sub(api.Int{L: above}, api.Int{L: below})
-}
-
-// unpack gives the polynomial of n entries that pack made a of, if all of them
-// are below 2^(32 width - 1), without their signs.
-func unpack(a api.Int, width, n int) api.Poly {
-	out := make(api.Poly, n)
-	one := limbs.Of(1)
-	base := api.Int{L: append(make([]uint32, width), 1)}
-	var carry api.Int
-	for i := range out {
-		from := min(i*width, len(a.L))
-		digit := api.Int{L: a.L[from:min(from+width, len(a.L))]}
-		c := limbs.Add(digit, carry)
-		carry = api.Int{}
-		// An entry below 0 has taken 1 from the next.
-		if limbs.Bits(c) >= 32*width {
-			c, carry = limbs.Sub(c, base), one
-		}
-		if a.Neg {
-			c = limbs.Neg(c)
-		}
-		out[i] = c
 	}
 	return out
 }

@@ -33,7 +33,7 @@ func TestBothRoadsOfProducts(t *testing.T) {
 			r[len(r)-1] = edges[2+d.Intn(len(edges)-2)]
 		}
 		width := digitWidth(p, q)
-		packed := unpack(limbs.Mul(pack(p, width), pack(q, width)), width, len(p)+len(q)-1)
+		packed := packedProduct(p, q, width)
 		if rows := productByRows(p, q); !Eq(packed, rows) {
 			t.Errorf("P3.1: Mul %v and %v: packed %v, by rows %v", p, q, packed, rows)
 		}
@@ -47,7 +47,7 @@ func TestPackedAtTheWidth(t *testing.T) {
 		p := slices.Repeat(api.Poly{most}, n)
 		for _, q := range []api.Poly{p, Scale(p, limbs.Of(-1))} {
 			width := digitWidth(p, q)
-			packed := unpack(limbs.Mul(pack(p, width), pack(q, width)), width, 2*n-1)
+			packed := packedProduct(p, q, width)
 			if !Eq(packed, productByRows(p, q)) {
 				t.Errorf("P3.1: Mul of %d entries: %v", n, packed)
 			}
