@@ -6,6 +6,7 @@ import (
 	"ashlar/limbs"
 	"ashlar/ore"
 	"ashlar/rat"
+	"ashlar/sums"
 	"ashlar/upoly"
 )
 
@@ -95,23 +96,5 @@ func (t trial) holds(n int) bool {
 			terms = append(terms, api.Rat{Num: limbs.Mul(c, v.Num), Den: v.Den})
 		}
 	}
-	return limbs.Sign(total(terms).Num) == 0
-}
-
-// total adds by halves. It does not bring sums to lowest terms: whether one is 0
-// shows without, and the common divisors of long numbers would be most of the
-// work.
-func total(terms []api.Rat) api.Rat {
-	switch len(terms) {
-	case 0:
-		return api.Rat{Den: limbs.Of(1)}
-	case 1:
-		return terms[0]
-	}
-	half := len(terms) / 2
-	a, b := total(terms[:half]), total(terms[half:])
-	return api.Rat{
-		Num: limbs.Add(limbs.Mul(a.Num, b.Den), limbs.Mul(b.Num, a.Den)),
-		Den: limbs.Mul(a.Den, b.Den),
-	}
+	return limbs.Sign(sums.Of(terms).Num) == 0
 }
