@@ -32,7 +32,7 @@ func (c *candidates) takeLeast() api.Int { return heap.Pop(c).(api.Int) }
 // of p: each of them is, modulo a prime, one of the few roots that there are, and
 // a root that is single there comes from one integer at most.
 func candidatesOf(p api.Poly) *candidates {
-	m := firstPrime
+	m := firstPrime()
 	found, single := m.roots(p)
 	if !single {
 		p = withoutRepeats(p)

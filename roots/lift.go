@@ -53,7 +53,7 @@ func powerAbove(m prime, bits int) int {
 	return bits/(limbs.Bits(m.whole())-1) + 1
 }
 
-func (m prime) whole() api.Int { return limbs.Of(int64(m)) }
+func (m prime) whole() api.Int { return limbs.Of(int64(m.Prime)) }
 
 // powers gives powers of m, from m on to m^n, each at most the square of the one
 // before. They are such that the last, on which most work is spent, is not

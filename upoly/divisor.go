@@ -25,8 +25,8 @@ func Gcd(p, q api.Poly) api.Poly {
 func primitiveDivisor(a, b api.Poly) api.Poly {
 	lead := limbs.Gcd(a[len(a)-1], b[len(b)-1])
 	var found *image
-	for m := greatestPrime; ; m = m.below() {
-		scale := m.of(lead)
+	for m := greatestPrime(); ; m = m.below() {
+		scale := m.Of(lead)
 		if scale == 0 {
 			continue
 		}
@@ -72,15 +72,15 @@ func newImage(n int) *image {
 // that changes it.
 func (g *image) take(m prime, residues []uint64) bool {
 	changed := false
-	inverse := m.inverse(m.of(g.modulus))
+	inverse := m.Inverse(m.Of(g.modulus))
 	for i, r := range residues {
-		lack := m.times(m.minus(r, m.of(g.entries[i])), inverse)
+		lack := m.Times(m.Minus(r, m.Of(g.entries[i])), inverse)
 		if lack > 0 {
 			step := limbs.Mul(g.modulus, limbs.Of(m.nearest(lack)))
 			g.entries[i] = limbs.Add(g.entries[i], step)
 			changed = true
 		}
 	}
-	g.modulus = limbs.Mul(g.modulus, limbs.Of(int64(m)))
+	g.modulus = limbs.Mul(g.modulus, limbs.Of(int64(m.Prime)))
 	return changed
 }

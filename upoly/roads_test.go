@@ -69,24 +69,13 @@ func TestPackedCostDoesNotWrap(t *testing.T) {
 }
 
 func TestPrimes(t *testing.T) {
-	for n := prime(9); n < 50000; n += 2 {
-		if n.isPrime() != big.NewInt(int64(n)).ProbablyPrime(0) {
-			t.Errorf("P3.3: isPrime %d: %t", n, n.isPrime())
-		}
-	}
-	// Numbers that look like primes to the bases 2, 3 and 5.
-	for _, n := range []prime{25326001, 161304001, 960946321, 1157839381} {
-		if n.isPrime() {
-			t.Errorf("P3.3: isPrime %d", n)
-		}
-	}
-	m := greatestPrime
-	for n := greatestPrime - 1; n > greatestPrime-20000; n-- {
+	m := greatestPrime()
+	for n := m.Prime - 1; n > api.MaxPrime-20000; n-- {
 		if !big.NewInt(int64(n)).ProbablyPrime(0) {
 			continue
 		}
-		if m = m.below(); m != n {
-			t.Fatalf("P3.3: below: %d, not %d", m, n)
+		if m = m.below(); m.Prime != n {
+			t.Fatalf("P3.3: below: %d, not %d", m.Prime, n)
 		}
 	}
 }
