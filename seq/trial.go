@@ -3,11 +3,10 @@ package seq
 import (
 	"ashlar/api"
 	"ashlar/gauge"
+	"ashlar/held"
 	"ashlar/limbs"
 	"ashlar/ore"
 	"ashlar/rat"
-	"ashlar/sums"
-	"ashlar/upoly"
 )
 
 // most is the greatest order and the greatest degree of a sequence's operator.
@@ -22,7 +21,11 @@ type trial struct {
 // trialOf reads what was handed in. That a window is too long shows in one value
 // too many: the values behind it are not worth their lowest terms.
 func trialOf(a api.Op, win []api.Rat) trial {
-	return trial{op: ore.Norm(a), win: each(win[:min(len(win), api.MaxIndex+1)], rat.Norm)}
+	t := trial{op: ore.Norm(a)}
+	for _, v := range win[:min(len(win), api.MaxIndex+1)] {
+		t.win = append(t.win, rat.Norm(v))
+	}
+	return t
 }
 
 // check is a fault that a trial may have, with the error that tells it.
@@ -58,43 +61,12 @@ func (t trial) isUnder() bool {
 
 // isBroken tells whether a relation within the window does not hold.
 func (t trial) isBroken() bool {
-	for n := range t.relations() {
-		if !t.isSingular(n) && !t.holds(n) {
+	for n := range held.Relations(t.op, t.win) {
+		if !held.IsSingular(t.op, n) && !held.Holds(t.op, n, t.value) {
 			return true
 		}
 	}
 	return false
 }
 
-// relations tells how many relations speak of the window's values alone: those at
-// the numbers below. Of a window that determines, these are all that may be
-// singular.
-func (t trial) relations() int { return len(t.win) - ore.Order(t.op) }
-
-func (t trial) isSingular(n int) bool {
-	return limbs.Sign(upoly.Eval(t.op[len(t.op)-1], limbs.Of(int64(n)))) == 0
-}
-
-// singular gives the singular numbers, of a window that determines.
-func (t trial) singular() []int {
-	var out []int
-	for n := range t.relations() {
-		if t.isSingular(n) {
-			out = append(out, n)
-		}
-	}
-	return out
-}
-
-// holds tells whether the relation at n holds.
-func (t trial) holds(n int) bool {
-	x := limbs.Of(int64(n))
-	var terms []api.Rat
-	for i, p := range t.op {
-		if c := upoly.Eval(p, x); limbs.Sign(c) != 0 {
-			v := t.win[n+i]
-			terms = append(terms, api.Rat{Num: limbs.Mul(c, v.Num), Den: v.Den})
-		}
-	}
-	return limbs.Sign(sums.Of(terms).Num) == 0
-}
+func (t trial) value(k int) api.Rat { return t.win[k] }

@@ -1,4 +1,4 @@
-package unroll
+package walks
 
 import (
 	"ashlar/api"
@@ -24,10 +24,18 @@ func walkOf(s *seq.Seq) *walk {
 	return &walk{op: s.Op(), at: from, last: last, base: last.den}
 }
 
+// next goes to the next value and gives it in normal form, if each step is one of
+// next's.
+func (w *walk) next() api.Rat {
+	w.step()
+	w.lower()
+	return w.lowest()
+}
+
 // step goes to the next value. No number is singular behind a window.
 func (w *walk) step() {
-	s := sum{at: whole(w.at)}
-	pair(w.op, 0, w.last.all(), s.add)
+	s := At(w.at)
+	Pair(w.op, 0, w.last.all(), s.Add)
 	next, lead := limbs.Neg(s.total.Num), upoly.Eval(w.op[len(w.op)-1], s.at)
 	if limbs.Sign(lead) < 0 {
 		next, lead = limbs.Neg(next), limbs.Neg(lead)
@@ -45,7 +53,7 @@ func (w *walk) step() {
 func (w *walk) value() api.Rat {
 	n := len(w.last.nums)
 	if n == 0 { // Relations of the order 0 say that all is 0.
-		return zero()
+		return api.Rat{Den: limbs.Of(1)}
 	}
 	return api.Rat{Num: w.last.nums[n-1], Den: w.last.den}
 }

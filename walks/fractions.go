@@ -1,4 +1,4 @@
-package unroll
+package walks
 
 import (
 	"iter"

@@ -1,4 +1,4 @@
-package linalg
+package minors
 
 import (
 	"container/heap"
@@ -15,6 +15,7 @@ import (
 // of the matrix, so a width in which minors have room is known ahead.
 type elimination struct {
 	width   int
+	across  int // how many columns there are
 	left    rows
 	taken   []*row  // in the order in which they were taken
 	columns []int   // for which these were taken
@@ -23,7 +24,7 @@ type elimination struct {
 
 func newElimination(m [][]api.Poly) *elimination {
 	m = normal(m)
-	e := &elimination{width: minorWidth(m), minor: limbs.Of(1)}
+	e := &elimination{width: minorWidth(m), across: len(m[0]), minor: limbs.Of(1)}
 	for i, polys := range m {
 		r := &row{index: i}
 		for _, p := range polys {
@@ -100,20 +101,6 @@ func (e *elimination) indexes() []int {
 		out = append(out, r.index)
 	}
 	return out
-}
-
-func determinant(m [][]api.Poly) api.Poly {
-	e := newElimination(m)
-	for j := range m[0] {
-		if !e.take(j) {
-			return nil
-		}
-	}
-	d := e.minor
-	if isOdd(e.indexes()) {
-		d = limbs.Neg(d)
-	}
-	return packed.Poly(d, e.width)
 }
 
 // isOdd tells whether an odd number of exchanges brings the numbers into order.

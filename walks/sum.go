@@ -1,4 +1,4 @@
-package unroll
+package walks
 
 import (
 	"iter"
@@ -8,15 +8,20 @@ import (
 	"ashlar/upoly"
 )
 
-// sum adds up values, each times an entry at one number. The total is not in
-// lowest terms, and of no values it is 0 over 0, which is read as 0.
-type sum struct {
+// Sum adds up values, each times an entry at one number.
+type Sum struct {
 	at    api.Int
 	total api.Rat
 }
 
-// add takes in an entry and a value.
-func (s *sum) add(c api.Poly, v api.Rat) {
+// At gives a sum without values; entries count as at n there.
+func At(n int) *Sum { return &Sum{at: limbs.Of(int64(n))} }
+
+// Total is not in lowest terms, and of no values it is 0 over 0, which is read as 0.
+func (s *Sum) Total() api.Rat { return s.total }
+
+// Add takes in an entry and a value.
+func (s *Sum) Add(c api.Poly, v api.Rat) {
 	num := limbs.Mul(upoly.Eval(c, s.at), v.Num)
 	switch {
 	case limbs.Sign(num) == 0:
@@ -32,8 +37,8 @@ func (s *sum) add(c api.Poly, v api.Rat) {
 	}
 }
 
-// pair hands each entry of a, with the value that stands as far behind n, to add.
-func pair(a api.Op, n int, values iter.Seq2[int, api.Rat], add func(c api.Poly, v api.Rat)) {
+// Pair hands each entry of a, with the value that stands as far behind n, to add.
+func Pair(a api.Op, n int, values iter.Seq2[int, api.Rat], add func(c api.Poly, v api.Rat)) {
 	for k, v := range values {
 		if i := k - n; i >= 0 && i < len(a) {
 			add(a[i], v)
